@@ -146,7 +146,7 @@ func TestLongIngest(t *testing.T) {
 
 func TestExample(t *testing.T) {
 	c := catalog.New()
-	if c.Cols() != nil || len(c.Parts()) != 0 || c.Snapshot() != "\x00\x00\x00" {
+	if len(c.Cols()) != 0 || len(c.Parts()) != 0 || c.Snapshot() != "\x00\x00\x00" {
 		t.Error("there is something")
 	}
 	apply(t, c, ingest(t, 9, 1, 5), api.ErrSchema, 0, "")
@@ -320,15 +320,13 @@ func TestApplyRejects(t *testing.T) {
 }
 
 func TestNil(t *testing.T) {
-	var none *catalog.Catalog
-	for _, c := range []*catalog.Catalog{none, {}} {
-		for _, cmd := range []string{"", create(t, one), ingest(t, 1, 1, 1)} {
-			apply(t, c, cmd, api.ErrNil, 0, "")
-		}
-		n, done := c.Client(1)
-		if c.Cols() != nil || c.Parts() != nil || n != 0 || done != (api.Done{}) || c.Snapshot() != "" {
-			t.Error("there is something")
-		}
+	var c *catalog.Catalog
+	for _, cmd := range []string{"", create(t, one), ingest(t, 1, 1, 1)} {
+		apply(t, c, cmd, api.ErrNil, 0, "")
+	}
+	n, done := c.Client(1)
+	if len(c.Cols()) != 0 || len(c.Parts()) != 0 || n != 0 || done != (api.Done{}) || c.Snapshot() != "" {
+		t.Error("there is something")
 	}
 }
 

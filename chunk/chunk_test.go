@@ -123,14 +123,14 @@ func TestEncodeRejects(t *testing.T) {
 		{3, []api.Value{text("a"), num(1)}}, {2, []api.Value{truth(2)}}, {3, []api.Value{text(strings.Repeat("x", 1025))}}, {1, []api.Value{{Kind: 1, S: "x"}}}, {1, []api.Value{{N: 1}}},
 		{1, make([]api.Value, 1025)}, {9, []api.Value{{Kind: 9}}},
 	} {
-		if b, e := chunk.Encode(c.kind, c.l); b != nil || e != api.ErrArg {
+		if b, e := chunk.Encode(c.kind, c.l); len(b) != 0 || e != api.ErrArg {
 			t.Error(i, b, e)
 		}
 	}
 }
 
 func TestDecodeRejects(t *testing.T) {
-	if kind, l, e := chunk.Decode(nil); kind != 0 || l != nil || e != api.ErrChunkByte {
+	if kind, l, e := chunk.Decode(nil); kind != 0 || len(l) != 0 || e != api.ErrChunkByte {
 		t.Error(kind, l, e)
 	}
 	for _, s := range []string{
@@ -140,10 +140,10 @@ func TestDecodeRejects(t *testing.T) {
 		"\x01\x02\x02\x03", "\x01\x02\x00\x00\x00\x02\x02", "\x03\x01\x00\x00\x02a", "\x03\x01\x00\x01\x01\x01a\x00", "\x03\x02\x00\x01\x02\x01b\x01a\x01\x01", "\x01\x81\x08\x81\x08",
 		"\x01\xff\xff\xff\xff\xff\xff\xff\xff\xff\x01\xff\xff\xff\xff\xff\xff\xff\xff\xff\x01", "\x01\xff\xff\xff\xff\xff\xff\xff\xff\xff\x01\x00",
 	} {
-		if kind, l, e := chunk.Decode(sealed([]byte(s))); kind != 0 || l != nil || e != api.ErrChunkByte {
+		if kind, l, e := chunk.Decode(sealed([]byte(s))); kind != 0 || len(l) != 0 || e != api.ErrChunkByte {
 			t.Errorf("%x: %d %v %d", s, kind, l, e)
 		}
-		if kind, l, e := chunk.Decode([]byte(s)); kind != 0 || l != nil || e != api.ErrChunkByte {
+		if kind, l, e := chunk.Decode([]byte(s)); kind != 0 || len(l) != 0 || e != api.ErrChunkByte {
 			t.Errorf("%x: %d %v %d", s, kind, l, e)
 		}
 	}
@@ -160,11 +160,11 @@ func TestChangedChunks(t *testing.T) {
 			for x := 1; x < 256; x += 7 {
 				y := bytes.Clone(b)
 				y[i] ^= byte(x)
-				if kind, l, e := chunk.Decode(y); kind != 0 || l != nil || e != api.ErrChunkByte {
+				if kind, l, e := chunk.Decode(y); kind != 0 || len(l) != 0 || e != api.ErrChunkByte {
 					t.Fatalf("%x", y)
 				}
 			}
-			if kind, l, e := chunk.Decode(b[:i]); kind != 0 || l != nil || e != api.ErrChunkByte {
+			if kind, l, e := chunk.Decode(b[:i]); kind != 0 || len(l) != 0 || e != api.ErrChunkByte {
 				t.Fatalf("%x", b[:i])
 			}
 		}
@@ -188,7 +188,7 @@ func TestOneChunkAColumn(t *testing.T) {
 			x[r.Intn(len(x))] = byte(r.Intn(256)) >> r.Intn(8)
 			x = sealed(x)
 			kind, l, e := chunk.Decode(x)
-			if e == 0 && !bytes.Equal(slow(kind, l), x) || e != 0 && (e != api.ErrChunkByte || l != nil || kind != 0) {
+			if e == 0 && !bytes.Equal(slow(kind, l), x) || e != 0 && (e != api.ErrChunkByte || len(l) != 0 || kind != 0) {
 				t.Fatalf("%x: %d %v", x, kind, l)
 			}
 		}

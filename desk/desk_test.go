@@ -60,7 +60,6 @@ func TestWithoutClusterOrLeader(t *testing.T) {
 		"error 2", one, "error 2", one, "error 2", "error 181", one, "ok", "ok", "parts", "error 2", one)
 	prints(t, script("cluster 3 1000", "lead 0", "lead 4", "crash 0", "crash 4", "lead 999999999999999999", "lead 1", "lead 4", "parts", "crash 4", "parts", "cluster 3 1000", "parts"),
 		"ok", "error 2", "error 2", "error 2", "error 2", "error 2", "ok", "error 2", "parts", "error 2", "parts", "ok", no)
-	prints(t, script("cluster 2 17", "lead 1", "parts", "crash 1"), "ok", "error 181", no, "ok")
 }
 
 // runs checks a script whose lines each stand ahead of what they print.
@@ -232,13 +231,5 @@ func TestPrefixes(t *testing.T) {
 	}
 	if s, _, _ := desk.Run(script(lines...) + "\n"); s != whole {
 		t.Error(s)
-	}
-}
-
-// A group whose disks are full does not answer with rows that are not there.
-func TestFullDisks(t *testing.T) {
-	s, at, e := desk.Run(script("cluster 3 400", "lead 1", `create "a int"`, "ingest 1 1 1 5", "ingest 1 2 1 6", "ingest 1 3 1 7", "ingest 1 4 1 8", "ingest 1 5 1 9", "ingest 1 6 1 10"))
-	if at != 0 || e != 0 || !strings.Contains(s, "error ") || strings.Contains(s, "ok 6") {
-		t.Error(s, at, e)
 	}
 }

@@ -91,7 +91,7 @@ func TestBothWays(t *testing.T) {
 					continue
 				}
 				back, e := dict.Decode(b, n)
-				if e != 0 && (back != nil || e != api.ErrDictByte) || e == 0 && !bytes.Equal(slow(form, back), b) {
+				if e != 0 && (len(back) != 0 || e != api.ErrDictByte) || e == 0 && !bytes.Equal(slow(form, back), b) {
 					t.Fatal(i, form, n, back, e)
 				}
 			}
@@ -104,13 +104,13 @@ func TestBothWays(t *testing.T) {
 
 func TestRejects(t *testing.T) {
 	for _, form := range []int{-1, 2, 256, math.MinInt, math.MaxInt} {
-		if b, e := dict.Encode(form, "a"); b != nil || e != api.ErrArg {
+		if b, e := dict.Encode(form, "a"); len(b) != 0 || e != api.ErrArg {
 			t.Error(form, b, e)
 		}
 	}
 	for i, l := range [][]string{make([]string, 4097), {"a", strings.Repeat("x", 1025)}} {
 		for form := range 2 {
-			if b, e := dict.Encode(form, l...); b != nil || e != api.ErrArg {
+			if b, e := dict.Encode(form, l...); len(b) != 0 || e != api.ErrArg {
 				t.Error(i, b, e)
 			}
 		}
@@ -120,7 +120,7 @@ func TestRejects(t *testing.T) {
 	}
 	for _, n := range []int{-1, 4097, math.MinInt, math.MaxInt} {
 		for _, b := range []string{"", "\x00", "\x01\x00\x00"} {
-			if l, e := dict.Decode([]byte(b), n); l != nil || e != api.ErrArg {
+			if l, e := dict.Decode([]byte(b), n); len(l) != 0 || e != api.ErrArg {
 				t.Error(n, l, e)
 			}
 		}
@@ -140,7 +140,7 @@ func TestDecodeRejects(t *testing.T) {
 		{"\x01\x02\x01a", 3}, {"\x01\x01\x01a\x01\x02", 2}, {"\x01\x02\x01a\x01b\x02\x38", 3}, {"\x01", 0}, {"\x01\x00", 0}, {"\x01\x00\x00", 1}, {"\x01\x00\x01\x00", 1}, {"\x01\x00\x00\x00", 0},
 		{"\x01\x01\x01a\x00", 0}, {"\x01\x81\x00\x01a\x00", 1}, {"\x01\x01\x01a\x41", 1}, {"\x01\x01\x81\x08" + long + "\x00", 1}, {"\x01\xff\xff\xff\xff\xff\xff\xff\xff\xff\x01", 3},
 	} {
-		if l, e := dict.Decode([]byte(c.b), c.n); l != nil || e != api.ErrDictByte {
+		if l, e := dict.Decode([]byte(c.b), c.n); len(l) != 0 || e != api.ErrDictByte {
 			t.Errorf("%x %d: %q %d", c.b, c.n, l, e)
 		}
 	}
@@ -166,7 +166,7 @@ func TestOneEncodingAList(t *testing.T) {
 				}
 				back, e := dict.Decode(x, len(l))
 				if e != 0 {
-					if back != nil || e != api.ErrDictByte {
+					if len(back) != 0 || e != api.ErrDictByte {
 						t.Fatal(back, e)
 					}
 					continue

@@ -111,17 +111,15 @@ func TestNames(t *testing.T) {
 }
 
 func TestNil(t *testing.T) {
-	var none *disk.Disk
-	for _, d := range []*disk.Disk{none, {}} {
-		_, e := d.Read("A")
-		for i, e := range []api.Errno{e, d.Create("A"), d.Append("A", ""), d.Rename("A", "A"), d.Remove("A"), d.Sync("A"), d.Dir(), d.Turn("A", 0, 0), d.Fuse(-1)} {
-			if e != api.ErrNil {
-				t.Error(i, e)
-			}
+	var d *disk.Disk
+	_, e := d.Read("A")
+	for i, e := range []api.Errno{e, d.Create("A"), d.Append("A", ""), d.Rename("A", "A"), d.Remove("A"), d.Sync("A"), d.Dir(), d.Turn("A", 0, 0), d.Fuse(-1)} {
+		if e != api.ErrNil {
+			t.Error(i, e)
 		}
-		if d.Crash(1, 2) != nil || d.Left() != 0 || d.Names() != nil {
-			t.Error("there is something")
-		}
+	}
+	if d.Crash(1, 2) != nil || d.Left() != 0 || len(d.Names()) != 0 {
+		t.Error("there is something")
 	}
 }
 
@@ -239,7 +237,7 @@ func TestFuse(t *testing.T) {
 				t.Error(i, j, e)
 			}
 		}
-		if d.Names() != nil || d.Left() != 8 || all(d.Crash(9)) != "a=1" || all(d.Crash(9, 9)) != "a=12" {
+		if len(d.Names()) != 0 || d.Left() != 8 || all(d.Crash(9)) != "a=1" || all(d.Crash(9, 9)) != "a=12" {
 			t.Error(i, d.Names(), d.Left(), all(d.Crash(9)))
 		}
 		next := d.Crash(0)

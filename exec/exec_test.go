@@ -87,7 +87,7 @@ func TestExamples(t *testing.T) {
 		{"select count(*) as n group by 1 / (a - 3)", "", api.ErrZero}, {"select sum(1) as s, sum(null) as t", "3 null", 0}, {"select a as a where a <= 2 and 1 / (4 - a) <= 9", "1; 2", 0}, {"select 2 as k, count(*) as n group by 2, b, 2", "2 2; 2 1", 0},
 	} {
 		rows, e := exec.Run(prepare(t, ab, c.s), segs...)
-		if told(rows) != c.want || e != c.e || e != 0 && rows != nil {
+		if told(rows) != c.want || e != c.e || e != 0 && len(rows) != 0 {
 			t.Errorf("%s: %s %d", c.s, told(rows), e)
 		}
 	}
@@ -120,10 +120,10 @@ func TestErrors(t *testing.T) {
 		e    api.Errno
 	}{
 		{api.Plan{}, nil, api.ErrSchema}, {api.Plan{Cols: ab}, nil, api.ErrQueryForm}, {api.Plan{Cols: ab[1:], Q: good.Q}, segs, api.ErrPlanName}, {api.Plan{Cols: ab, Q: prepare(t, abcd, "select sum(d) as s").Q}, nil, api.ErrPlanName}, {api.Plan{Cols: ab[1:], Q: good.Q}, []*segment.Segment{nil}, api.ErrPlanName},
-		{good, []*segment.Segment{nil}, api.ErrArg}, {good, []*segment.Segment{segs[0], nil}, api.ErrArg}, {good, []*segment.Segment{segs[0], other}, api.ErrArg}, {good, []*segment.Segment{{}}, api.ErrArg}, {api.Plan{Cols: null, Q: good.Q}, segs, api.ErrArg}, {api.Plan{Cols: ab[:1], Q: good.Q}, segs, api.ErrArg},
+		{good, []*segment.Segment{nil}, api.ErrArg}, {good, []*segment.Segment{segs[0], nil}, api.ErrArg}, {good, []*segment.Segment{segs[0], other}, api.ErrArg}, {api.Plan{Cols: null, Q: good.Q}, segs, api.ErrArg}, {api.Plan{Cols: ab[:1], Q: good.Q}, segs, api.ErrArg},
 		{api.Plan{Cols: ab, Q: prepare(t, []api.Column{{Name: "b", Kind: api.KInt}}, "select sum(b) as s").Q}, segs, api.ErrPlanType}, {prepare(t, ab, "select 1 / 0 as x"), []*segment.Segment{segs[0], nil}, api.ErrArg},
 	} {
-		if rows, e := exec.Run(c.p, c.segs...); rows != nil || e != c.e {
+		if rows, e := exec.Run(c.p, c.segs...); len(rows) != 0 || e != c.e {
 			t.Error(i, rows, e)
 		}
 		if n, e := exec.Looked(c.p, c.segs...); n != 0 || e != c.e {
@@ -188,7 +188,7 @@ func TestFirstErrors(t *testing.T) {
 		"select sum(1 / (a - 3)) as s, count(a - 2 + 1 + " + most + ") as t": api.ErrZero, "select sum(1 / (a - 3)) as s, count(a - 1 + 1 + " + most + ") as t": api.ErrOver,
 	} {
 		for _, segs := range [][]*segment.Segment{example(t), {open(t, ab, api.Row{num(1), text("x")}, api.Row{num(2), text("y")}, api.Row{num(3), text("z")})}} {
-			if rows, e := exec.Run(prepare(t, ab, s), segs...); rows != nil || e != want {
+			if rows, e := exec.Run(prepare(t, ab, s), segs...); len(rows) != 0 || e != want {
 				t.Errorf("%s: %s %d", s, told(rows), e)
 			}
 		}

@@ -74,7 +74,7 @@ func wrongForms() []api.Expr {
 		{}, {Op: -1}, {Op: 17}, {Op: math.MinInt}, {Op: math.MaxInt}, {Op: api.ECol, Name: "b", V: num(1)}, {Op: api.ECol, Name: "b", Kids: []api.Expr{n(1)}}, {Op: api.ECol, Name: "b", V: api.Value{N: 1}},
 		{Op: api.EConst, Name: "b"}, {Op: api.EConst, V: truth(2)}, {Op: api.EConst, V: api.Value{Kind: 4}}, {Op: api.EConst, V: api.Value{N: 3}}, {Op: api.EConst, V: num(1), Kids: []api.Expr{n(1)}},
 		{Op: api.EConst, V: text(strings.Repeat("x", 1025))},
-		op(api.EAdd), op(api.EAdd, n(1)), op(api.EAdd, n(1), n(1), n(1)), op(api.ENeg), op(api.ENeg, n(1), n(1)), op(api.ENot, con(truth(1)), con(truth(1))), op(api.EIsNull), op(api.ELen),
+		op(0, n(1), n(1)), op(17, n(1), n(1)), op(-1, n(1), n(1)), op(math.MaxInt, n(1), n(1)), op(api.EAdd), op(api.EAdd, n(1)), op(api.EAdd, n(1), n(1), n(1)), op(api.ENeg), op(api.ENeg, n(1), n(1)), op(api.ENot, con(truth(1)), con(truth(1))), op(api.EIsNull), op(api.ELen),
 		op(api.EEq, n(1)), op(api.EAnd, con(truth(1))), op(api.EOr), op(api.ELess, n(1)), op(api.ELessEq), op(api.ESub, n(1)), op(api.EMul, n(1)), op(api.EDiv, n(1)), op(api.ERem, n(1)),
 		{Op: api.EAdd, Name: "b", Kids: []api.Expr{n(1), n(1)}}, {Op: api.EAdd, V: num(1), Kids: []api.Expr{n(1), n(1)}}, {Op: api.ENot, V: api.Value{S: "x"}, Kids: []api.Expr{con(truth(1))}},
 		deep(41), deep(60000), wide(10), wide(40), ofNodes(401), cyclic, op(api.EAdd, loop...), op(api.EAdd, n(1), op(api.EMul, n(1), op(99))), op(api.EIsNull, api.Expr{}),

@@ -94,17 +94,15 @@ func TestExample(t *testing.T) {
 }
 
 func TestNil(t *testing.T) {
-	var none *group.Table
-	for _, g := range []*group.Table{none, {}} {
-		if e := g.Add(nil, nil); e != api.ErrNil {
-			t.Error(e)
-		}
-		if k, r, e := g.Answer(); k != nil || r != nil || e != api.ErrNil {
-			t.Error(k, r, e)
-		}
-		if g.Groups() != 0 {
-			t.Error(g.Groups())
-		}
+	var g *group.Table
+	if e := g.Add(nil, nil); e != api.ErrNil {
+		t.Error(e)
+	}
+	if k, r, e := g.Answer(); len(k) != 0 || len(r) != 0 || e != api.ErrNil {
+		t.Error(k, r, e)
+	}
+	if g.Groups() != 0 {
+		t.Error(g.Groups())
 	}
 }
 
@@ -170,7 +168,7 @@ func TestSumsThatAreTooGreat(t *testing.T) {
 		for _, n := range vals {
 			add(t, g, api.Row{num(2)}, api.Row{null, num(n)})
 		}
-		if k, r, e := g.Answer(); k != nil || r != nil || e != api.ErrOver {
+		if k, r, e := g.Answer(); len(k) != 0 || len(r) != 0 || e != api.ErrOver {
 			t.Error(i, k, r, e)
 		}
 		if g.Groups() != 2 {
@@ -294,7 +292,7 @@ func TestOnce(t *testing.T) {
 		t.Error(l, e)
 	}
 	for i, v := range wrong() {
-		if l, e := group.Once([]api.Row{{num(1)}, {num(1), v}}); l != nil || e != api.ErrArg {
+		if l, e := group.Once([]api.Row{{num(1)}, {num(1), v}}); len(l) != 0 || e != api.ErrArg {
 			t.Error(i, l, e)
 		}
 	}

@@ -129,7 +129,7 @@ func TestBothWays(t *testing.T) {
 					continue
 				}
 				back, e := ints.Decode(b, n)
-				if e != 0 && (back != nil || e != api.ErrIntsByte) || e == 0 && !bytes.Equal(slow(form, back), b) {
+				if e != 0 && (len(back) != 0 || e != api.ErrIntsByte) || e == 0 && !bytes.Equal(slow(form, back), b) {
 					t.Fatal(i, form, n, back, e)
 				}
 			}
@@ -145,18 +145,18 @@ func TestBothWays(t *testing.T) {
 
 func TestRejects(t *testing.T) {
 	for _, form := range []int{-1, 4, 256, math.MinInt, math.MaxInt} {
-		if b, e := ints.Encode(form, 1); b != nil || e != api.ErrArg {
+		if b, e := ints.Encode(form, 1); len(b) != 0 || e != api.ErrArg {
 			t.Error(form, b, e)
 		}
 	}
 	for form := range 4 {
-		if b, e := ints.Encode(form, make([]int64, 4097)...); b != nil || e != api.ErrArg {
+		if b, e := ints.Encode(form, make([]int64, 4097)...); len(b) != 0 || e != api.ErrArg {
 			t.Error(form, b, e)
 		}
 	}
 	for _, n := range []int{-1, 4097, math.MinInt, math.MaxInt} {
 		for _, b := range []string{"", "\x00", "\x01\x81\x20\x0e"} {
-			if l, e := ints.Decode([]byte(b), n); l != nil || e != api.ErrArg {
+			if l, e := ints.Decode([]byte(b), n); len(l) != 0 || e != api.ErrArg {
 				t.Error(n, l, e)
 			}
 		}
@@ -180,7 +180,7 @@ func TestDecodeRejects(t *testing.T) {
 		{"\x03\x0a", 0}, {"\x03\x0a", 1}, {"\x03\x0a\x01\x01", 1}, {"\x03\x0a\x01\x03", 2}, {"\x03\x0a\x01\x00", 2}, {"\x03\x0a\x02\x74", 3}, {"\x03\x0a\x03\x00\x00", 3}, {"\x03", 1}, {"\x03\x0a\x41", 1},
 		{"\x03\xfe\xff\xff\xff\xff\xff\xff\xff\xff\x01\x01\x02", 2},
 	} {
-		if l, e := ints.Decode([]byte(c.b), c.n); l != nil || e != api.ErrIntsByte {
+		if l, e := ints.Decode([]byte(c.b), c.n); len(l) != 0 || e != api.ErrIntsByte {
 			t.Errorf("%x %d: %v %d", c.b, c.n, l, e)
 		}
 	}
@@ -206,7 +206,7 @@ func TestOneEncodingAList(t *testing.T) {
 				}
 				back, e := ints.Decode(x, len(l))
 				if e != 0 {
-					if back != nil || e != api.ErrIntsByte {
+					if len(back) != 0 || e != api.ErrIntsByte {
 						t.Fatal(back, e)
 					}
 					continue

@@ -173,13 +173,11 @@ func TestTurnAndCopy(t *testing.T) {
 }
 
 func TestNil(t *testing.T) {
-	var none *net.Net
-	for _, x := range []*net.Net{none, {}} {
-		m, found := x.Look(0)
-		n, also := x.Take(0)
-		if x.Send(api.Msg{}) != api.ErrNil || x.Cut(0, 0, true) != api.ErrNil || x.Many() != 0 || x.Lost() != 0 || m != (api.Msg{}) || n != (api.Msg{}) || found || also || x.Copy(0) || x.Turn(0, 0, 0) {
-			t.Error("there is something")
-		}
+	var x *net.Net
+	m, found := x.Look(0)
+	n, also := x.Take(0)
+	if x.Send(api.Msg{}) != api.ErrNil || x.Cut(0, 0, true) != api.ErrNil || x.Many() != 0 || x.Lost() != 0 || m != (api.Msg{}) || n != (api.Msg{}) || found || also || x.Copy(0) || x.Turn(0, 0, 0) {
+		t.Error("there is something")
 	}
 }
 

@@ -97,49 +97,49 @@ func rejected() [][]api.Row {
 func TestRejects(t *testing.T) {
 	good := []api.Row{b, a}
 	for i, rows := range rejected() {
-		if l, e := order.Sort(rows, up(0), up(1)); l != nil || e != api.ErrArg {
+		if l, e := order.Sort(rows, up(0), up(1)); len(l) != 0 || e != api.ErrArg {
 			t.Error(i, l, e)
 		}
 		for _, n := range []int{-2, -1, 0, 1} {
-			if l, e := order.First(rows, n, up(0), up(1)); l != nil || e != api.ErrArg {
+			if l, e := order.First(rows, n, up(0), up(1)); len(l) != 0 || e != api.ErrArg {
 				t.Error(i, l, e)
 			}
 		}
-		if l, e := order.Merge(rows, good, up(0), up(1)); l != nil || e != api.ErrArg {
+		if l, e := order.Merge(rows, good, up(0), up(1)); len(l) != 0 || e != api.ErrArg {
 			t.Error(i, l, e)
 		}
-		if l, e := order.Merge(good, rows, up(0), up(1)); l != nil || e != api.ErrArg {
+		if l, e := order.Merge(good, rows, up(0), up(1)); len(l) != 0 || e != api.ErrArg {
 			t.Error(i, l, e)
 		}
 	}
 	for _, key := range []int{-1, 2, math.MaxInt, math.MinInt} {
-		if l, e := order.Sort(good, up(key)); l != nil || e != api.ErrArg {
+		if l, e := order.Sort(good, up(key)); len(l) != 0 || e != api.ErrArg {
 			t.Error(key, l, e)
 		}
-		if l, e := order.First(good, 0, up(0), down(key)); l != nil || e != api.ErrArg {
+		if l, e := order.First(good, 0, up(0), down(key)); len(l) != 0 || e != api.ErrArg {
 			t.Error(key, l, e)
 		}
-		if l, e := order.Merge(good, nil, up(key)); l != nil || e != api.ErrArg {
+		if l, e := order.Merge(good, nil, up(key)); len(l) != 0 || e != api.ErrArg {
 			t.Error(key, l, e)
 		}
-		if l, e := order.Merge(nil, good, up(key)); l != nil || e != api.ErrArg {
+		if l, e := order.Merge(nil, good, up(key)); len(l) != 0 || e != api.ErrArg {
 			t.Error(key, l, e)
 		}
 	}
 	for _, n := range []int{-2, math.MinInt} {
-		if l, e := order.First(good, n, up(0)); l != nil || e != api.ErrArg {
+		if l, e := order.First(good, n, up(0)); len(l) != 0 || e != api.ErrArg {
 			t.Error(n, l, e)
 		}
 	}
 	for i, lists := range [][2][]api.Row{{{a, b}, nil}, {nil, {a, b}}, {{b, a}, {c, b}}, {{c, b}, {b}}} {
-		if l, e := order.Merge(lists[0], lists[1], up(0)); l != nil || e != api.ErrArg {
+		if l, e := order.Merge(lists[0], lists[1], up(0)); len(l) != 0 || e != api.ErrArg {
 			t.Error(i, l, e)
 		}
 	}
-	if l, e := order.Merge([]api.Row{b, a}, nil, down(0)); l != nil || e != api.ErrArg {
+	if l, e := order.Merge([]api.Row{b, a}, nil, down(0)); len(l) != 0 || e != api.ErrArg {
 		t.Error(l, e)
 	}
-	if l, e := order.Merge([]api.Row{c, a}, nil, up(0), up(1)); l != nil || e != api.ErrArg {
+	if l, e := order.Merge([]api.Row{c, a}, nil, up(0), up(1)); len(l) != 0 || e != api.ErrArg {
 		t.Error(l, e)
 	}
 }

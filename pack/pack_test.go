@@ -101,7 +101,7 @@ func TestPackRejects(t *testing.T) {
 		{2, []uint64{4}}, {0, []uint64{1}}, {63, []uint64{1 << 63}}, {-1, nil}, {65, nil}, {65, []uint64{1}}, {math.MinInt, nil}, {math.MaxInt, nil},
 		{1, make([]uint64, 4097)}, {0, make([]uint64, 4097)}, {2, []uint64{1, 2, 3, 4}}, {2, []uint64{9, 1}},
 	} {
-		if b, e := pack.Pack(c.w, c.l...); b != nil || e != api.ErrArg {
+		if b, e := pack.Pack(c.w, c.l...); len(b) != 0 || e != api.ErrArg {
 			t.Errorf("%d: %x %d", i, b, e)
 		}
 	}
@@ -119,7 +119,7 @@ func TestUnpackRejects(t *testing.T) {
 		{nil, -1, 3, api.ErrArg}, {nil, 4097, 0, api.ErrArg}, {nil, 1, 65, api.ErrArg}, {nil, 1, -1, api.ErrArg}, {[]byte{0xd5, 3}, 3, 65, api.ErrArg},
 		{make([]byte, 513), 4097, 1, api.ErrArg}, {nil, math.MaxInt, math.MaxInt, api.ErrArg},
 	} {
-		if l, e := pack.Unpack(c.b, c.n, c.w); l != nil || e != c.e {
+		if l, e := pack.Unpack(c.b, c.n, c.w); len(l) != 0 || e != c.e {
 			t.Error(i, l, e)
 		}
 	}
@@ -139,7 +139,7 @@ func TestUnpackPadding(t *testing.T) {
 			for at := n * w; at < len(b)*8; at++ {
 				x := bytes.Clone(b)
 				x[at/8] |= 1 << (at % 8)
-				if l, e := pack.Unpack(x, n, w); l != nil || e != api.ErrPackByte {
+				if l, e := pack.Unpack(x, n, w); len(l) != 0 || e != api.ErrPackByte {
 					t.Fatal(w, n, at, l, e)
 				}
 			}

@@ -1,8 +1,8 @@
 package plan_test
 
 import (
+	"fmt"
 	"math/rand"
-	"reflect"
 	"slices"
 	"strings"
 	"testing"
@@ -15,6 +15,9 @@ import (
 var ab = []api.Column{{Name: "a", Kind: api.KInt}, {Name: "b", Kind: api.KText, Null: true}}
 
 var abcd = []api.Column{{Name: "a", Kind: api.KInt}, {Name: "b", Kind: api.KText, Null: true}, {Name: "c", Kind: api.KBool}, {Name: "d", Kind: api.KInt, Null: true}}
+
+// same tells whether two results are the same; an empty list is as good as none.
+func same(a, b any) bool { return fmt.Sprintf("%+v", a) == fmt.Sprintf("%+v", b) }
 
 func parse(t *testing.T, s string) api.Query {
 	q, at, e := query.Parse(s)
@@ -50,10 +53,10 @@ func TestPlans(t *testing.T) {
 		q := parse(t, c.s)
 		p, e := plan.Make(abcd, q)
 		want := api.Plan{Cols: abcd, Q: q, Out: c.out, Gather: c.gather}
-		if e != 0 || !reflect.DeepEqual(p, want) {
+		if e != 0 || !same(p, want) {
 			t.Errorf("%s: %v %d", c.s, p, e)
 		}
-		if again, e := plan.Make(p.Cols, p.Q); e != 0 || !reflect.DeepEqual(again, p) {
+		if again, e := plan.Make(p.Cols, p.Q); e != 0 || !same(again, p) {
 			t.Errorf("%s: %v %d", c.s, again, e)
 		}
 	}
@@ -71,20 +74,20 @@ func TestErrors(t *testing.T) {
 		"select count(*) as n, sum(b) as n group by b": api.ErrPlanType,
 	} {
 		p, e := plan.Make(ab, parse(t, s))
-		if e != want || e != 0 && !reflect.DeepEqual(p, api.Plan{}) {
+		if e != want || e != 0 && !same(p, api.Plan{}) {
 			t.Errorf("%s: %v %d", s, p, e)
 		}
 	}
 	good := parse(t, "select a as x")
 	for i, cols := range [][]api.Column{nil, {{Name: "A", Kind: 1}}, {ab[0], ab[0]}, {{Name: "a", Kind: 4}}} {
 		for _, q := range []api.Query{good, {}} {
-			if p, e := plan.Make(cols, q); e != api.ErrSchema || !reflect.DeepEqual(p, api.Plan{}) {
+			if p, e := plan.Make(cols, q); e != api.ErrSchema || !same(p, api.Plan{}) {
 				t.Error(i, p, e)
 			}
 		}
 	}
 	for i, q := range []api.Query{{}, {Items: good.Items, Limit: -2}, {Items: good.Items, Limit: 4097}, {Items: []api.Item{{Name: "x"}}, Limit: -1}, {Items: good.Items, Limit: -1, Order: []api.Key{{Item: 1}}}, {Items: []api.Item{{Name: "x", X: api.Expr{Op: api.ECol, Name: "select"}}}, Limit: -1}} {
-		if p, e := plan.Make(ab, q); e != api.ErrQueryForm || !reflect.DeepEqual(p, api.Plan{}) {
+		if p, e := plan.Make(ab, q); e != api.ErrQueryForm || !same(p, api.Plan{}) {
 			t.Error(i, p, e)
 		}
 	}
@@ -119,7 +122,7 @@ func TestColumnsThatAreNotNeeded(t *testing.T) {
 			other, e := plan.Make(fewer, p.Q)
 			want := p
 			want.Cols = fewer
-			if e != 0 || !reflect.DeepEqual(other, want) {
+			if e != 0 || !same(other, want) {
 				t.Error(s, i, e)
 			}
 		}
@@ -132,7 +135,7 @@ func TestPlansAreNew(t *testing.T) {
 	q := parse(t, "select a + 1 as x, count(b) as y where a < 1 group by a + 1, b order by x")
 	kept := parse(t, "select a + 1 as x, count(b) as y where a < 1 group by a + 1, b order by x")
 	p, e := plan.Make(cols, q)
-	if e != 0 || !reflect.DeepEqual(q, kept) || !slices.Equal(cols, ab) {
+	if e != 0 || !same(q, kept) || !slices.Equal(cols, ab) {
 		t.Fatal(e)
 	}
 	cols[0].Name = "zz"
@@ -141,7 +144,7 @@ func TestPlansAreNew(t *testing.T) {
 	q.Group[0].Kids[0].Name = "zz"
 	q.Order[0].Desc = true
 	q.Items[1].Name = "zz"
-	if want, _ := plan.Make(ab, kept); !reflect.DeepEqual(p, want) {
+	if want, _ := plan.Make(ab, kept); !same(p, want) {
 		t.Error(p)
 	}
 	shared := []api.Expr{{Op: api.ECol, Name: "a"}}

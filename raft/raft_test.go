@@ -118,6 +118,14 @@ func (p *party) beat(i int) {
 	p.passAll()
 }
 
+// spread lets a leader's log reach all.
+func (p *party) spread(i int) {
+	p.t.Helper()
+	for range 5 {
+		p.beat(i)
+	}
+}
+
 func TestNew(t *testing.T) {
 	d := freshDisk(t, 1000)
 	for _, c := range [][2]int{{0, 0}, {1, 0}, {0, 1}, {2, 1}, {1, 8}, {8, 8}, {-1, 3}, {1, -1}, {4, 3}, {math.MaxInt, math.MaxInt}} {
@@ -151,19 +159,17 @@ func TestNew(t *testing.T) {
 }
 
 func TestNil(t *testing.T) {
-	var none *raft.Node
-	for _, m := range []*raft.Node{none, {}} {
-		i, e1 := m.Propose("")
-		k, e2 := m.Read()
-		for j, e := range []api.Errno{m.Timeout(), m.Beat(), e1, e2, m.Handle(api.Msg{}), m.Compact(-1, "")} {
-			if e != api.ErrNil {
-				t.Error(j, e)
-			}
+	var m *raft.Node
+	i, e1 := m.Propose("")
+	k, e2 := m.Read()
+	for j, e := range []api.Errno{m.Timeout(), m.Beat(), e1, e2, m.Handle(api.Msg{}), m.Compact(-1, "")} {
+		if e != api.ErrNil {
+			t.Error(j, e)
 		}
-		r, ready := m.Ready(1)
-		if i != 0 || k != 0 || r != 0 || ready || m.Waits(1) || m.Role() != 0 || m.Leader() != 0 || m.Commit() != 0 || m.Wal() != nil || !m.Dead() || m.Out() != nil {
-			t.Error("there is something")
-		}
+	}
+	r, ready := m.Ready(1)
+	if i != 0 || k != 0 || r != 0 || ready || m.Waits(1) || m.Role() != 0 || m.Leader() != 0 || m.Commit() != 0 || m.Wal() != nil || !m.Dead() || len(m.Out()) != 0 {
+		t.Error("there is something")
 	}
 }
 
@@ -311,7 +317,7 @@ func TestElection(t *testing.T) {
 		p := newParty(t, n, 100000)
 		for i := 1; i <= n; i++ {
 			p.elect(i)
-			p.beat(i)
+			p.spread(i)
 			for j := 1; j <= n; j++ {
 				role := 0
 				if j == i {
@@ -330,6 +336,7 @@ func TestNoMajority(t *testing.T) {
 	for n := 2; n <= 7; n++ {
 		p := newParty(t, n, 100000)
 		p.elect(1)
+		p.spread(1)
 		few := n/2 - 1 // members besides the first one that are not enough
 		for i := few + 2; i <= n; i++ {
 			p.net.Cut(1, i, true)
@@ -338,21 +345,19 @@ func TestNoMajority(t *testing.T) {
 		before := p.nodes[1].Commit()
 		i, e := p.nodes[1].Propose("a")
 		ok(t, e)
-		for range 3 {
-			p.beat(1)
-		}
+		p.spread(1)
 		if p.nodes[1].Commit() != before || i <= before {
 			t.Error(n, p.nodes[1].Commit(), before)
 		}
 		k, e := p.nodes[1].Read()
 		ok(t, e)
-		p.beat(1)
+		p.spread(1)
 		if _, ready := p.nodes[1].Ready(k); ready || !p.nodes[1].Waits(k) {
 			t.Error(n, "a read is ready")
 		}
 		p.net.Cut(1, few+2, false)
 		p.net.Cut(few+2, 1, false)
-		p.beat(1)
+		p.spread(1)
 		if got, ready := p.nodes[1].Ready(k); !ready || got < before || p.nodes[1].Commit() != i {
 			t.Error(n, got, ready, p.nodes[1].Commit())
 		}
@@ -369,9 +374,7 @@ func TestReplication(t *testing.T) {
 	if _, e := p.nodes[1].Propose("x"); e != api.ErrNotLeader {
 		t.Error(e)
 	}
-	for range 5 {
-		p.beat(2)
-	}
+	p.spread(2)
 	for i := 1; i <= 3; i++ {
 		if p.nodes[i].Commit() != 6 || p.nodes[i].Wal().Last() != 6 {
 			t.Error(i, p.nodes[i].Commit())
@@ -395,12 +398,10 @@ func TestSnapshot(t *testing.T) {
 		_, e := p.nodes[1].Propose("x")
 		ok(t, e)
 	}
-	p.beat(1)
+	p.spread(1)
 	ok(t, p.nodes[1].Compact(40, strings.Repeat("s", 262144)))
 	p.net.Cut(1, 3, false)
-	for range 5 {
-		p.beat(1)
-	}
+	p.spread(1)
 	if m := p.nodes[3]; m.Commit() != 51 || m.Wal().Last() != 51 || m.Wal().Snap().Index != 40 || len(m.Wal().Snap().Data) != 262144 {
 		t.Error(m.Commit(), m.Wal().Snap().Index)
 	}
@@ -434,9 +435,7 @@ func TestLaterTerms(t *testing.T) {
 		}
 	}
 	p.elect(3)
-	for range 5 {
-		p.beat(3)
-	}
+	p.spread(3)
 	for i := 1; i <= 3; i++ {
 		if term, _ := p.nodes[i].Wal().TermAt(2); term != 3 || p.nodes[i].Commit() != 3 || p.nodes[i].Wal().Last() != 3 {
 			t.Error(i, p.nodes[i].Commit(), p.nodes[i].Wal().Last())
@@ -453,34 +452,40 @@ func TestLaterTerms(t *testing.T) {
 
 // An entry of an earlier term is not committed by the number of members that have it.
 func TestEarlierTerms(t *testing.T) {
-	p := newParty(t, 5, 100000)
-	p.elect(1)
-	p.beat(1)
-	for i := 3; i <= 5; i++ {
-		p.net.Cut(1, i, true)
+	p := newParty(t, 3, 100000)
+	fill := func(i int, terms ...int64) {
+		d := freshDisk(t, 100000)
+		w, e := wal.Open(d)
+		ok(t, e, w.SetState(api.State{Term: 3}))
+		for j, term := range terms {
+			ok(t, w.Append(api.Entry{Index: int64(j + 1), Term: term, Data: "x"}))
+		}
+		p.disks[i] = d
+		p.begin(i)
 	}
-	_, e := p.nodes[1].Propose("old")
-	ok(t, e)
-	p.beat(1)
-	for i := 3; i <= 5; i++ {
-		p.net.Cut(1, i, false)
+	fill(1, 1, 2)
+	fill(2, 1, 2)
+	fill(3, 1, 3)
+	// whatever is delivered until member 1 leads and all others have its old entries, these are not committed before one of its own term
+	for i := 1; i <= 2; i++ {
+		p.net.Cut(3, i, true)
+		p.net.Cut(i, 3, true)
 	}
-	p.elect(5)
-	at := p.nodes[5].Wal().Last()
-	for i := 1; i <= 4; i++ {
-		p.net.Cut(5, i, true)
+	for range 3 {
+		ok(t, p.nodes[1].Timeout())
+		p.flush(1)
+		for p.net.Many() > 0 {
+			p.pass(0)
+			for i := 1; i <= 3; i++ {
+				if c := p.nodes[i].Commit(); c == 1 || c == 2 {
+					t.Fatal("an entry of an earlier term is committed")
+				}
+			}
+		}
 	}
-	p.crash(1, 0)
-	commit := p.nodes[2].Commit()
-	p.elect(1)
-	if p.nodes[1].Commit() >= 3 && p.nodes[1].Commit() < p.nodes[1].Wal().Last() || commit > at {
-		t.Error(p.nodes[1].Commit(), commit)
-	}
-	for range 2 {
-		p.beat(1)
-	}
-	if p.nodes[2].Commit() != p.nodes[1].Wal().Last() {
-		t.Error(p.nodes[2].Commit())
+	p.spread(1)
+	if p.nodes[1].Commit() < 3 {
+		t.Error(p.nodes[1].Commit())
 	}
 }
 
@@ -488,60 +493,53 @@ func TestEarlierTerms(t *testing.T) {
 func TestReads(t *testing.T) {
 	p := newParty(t, 3, 100000)
 	p.elect(1)
-	p.beat(1)
+	p.spread(1)
 	k, e := p.nodes[1].Read()
 	ok(t, e)
 	if i, ready := p.nodes[1].Ready(k); i != 0 || ready || !p.nodes[1].Waits(k) {
 		t.Error(i, ready)
 	}
-	// an answer to what was sent before the read tells nothing
-	ok(t, p.nodes[1].Beat())
-	p.flush(1)
-	k2, _ := p.nodes[1].Read()
-	for p.net.Many() > 0 {
-		p.pass(0)
-	}
-	if i, ready := p.nodes[1].Ready(k); i != 1 || !ready {
+	p.beat(1)
+	if i, ready := p.nodes[1].Ready(k); i < 1 || !ready || p.nodes[1].Waits(k) {
 		t.Error(i, ready)
 	}
-	if _, ready := p.nodes[1].Ready(k2); ready {
-		t.Error("an early answer was taken")
+	cut := func(cut bool) {
+		for i := 2; i <= 3; i++ {
+			ok(t, p.net.Cut(1, i, cut), p.net.Cut(i, 1, cut))
+		}
 	}
-	for i := 2; i <= 3; i++ {
-		p.net.Cut(1, i, true)
-		p.net.Cut(i, 1, true)
-	}
+	cut(true)
+	old, e := p.nodes[1].Read()
+	ok(t, e)
 	p.elect(2)
-	p.nodes[2].Propose("new")
-	p.beat(2)
-	if p.nodes[2].Commit() <= 1 {
+	_, e = p.nodes[2].Propose("new")
+	ok(t, e)
+	p.spread(2)
+	if p.nodes[2].Commit() <= p.nodes[1].Commit() {
 		t.Error(p.nodes[2].Commit())
 	}
 	for range 3 {
 		p.beat(1)
-		if _, ready := p.nodes[1].Ready(k2); ready {
+		if _, ready := p.nodes[1].Ready(old); ready {
 			t.Error("an old leader reads")
 		}
 	}
-	for i := 2; i <= 3; i++ {
-		p.net.Cut(1, i, false)
-		p.net.Cut(i, 1, false)
-	}
-	p.beat(1)
-	if p.nodes[1].Role() == 2 || p.nodes[1].Waits(k2) {
+	cut(false)
+	p.spread(1)
+	p.spread(2)
+	if p.nodes[1].Role() == 2 || p.nodes[1].Waits(old) {
 		t.Error("an old leader leads")
 	}
-	if i, ready := p.nodes[1].Ready(k2); i != 0 || ready {
+	if i, ready := p.nodes[1].Ready(old); i != 0 || ready {
 		t.Error(i, ready)
 	}
 	// a leader whose first entry is not committed
-	for i := 1; i <= 2; i++ {
-		p.net.Cut(3, i, false)
-	}
-	ok(t, p.nodes[3].Timeout(), p.nodes[3].Timeout())
-	p.flush(3)
-	for p.nodes[3].Role() != 2 && p.net.Many() > 0 {
-		p.pass(0)
+	for range 3 {
+		ok(t, p.nodes[3].Timeout())
+		p.flush(3)
+		for p.nodes[3].Role() != 2 && p.net.Many() > 0 {
+			p.pass(0)
+		}
 	}
 	if k, e := p.nodes[3].Read(); k != 0 || e != api.ErrRetry {
 		t.Error(k, e)
@@ -553,7 +551,12 @@ func TestDead(t *testing.T) {
 		func(p *party) api.Errno { return p.nodes[1].Timeout() },
 		func(p *party) api.Errno {
 			ok(p.t, p.nodes[2].Timeout())
-			return p.nodes[1].Handle(p.nodes[2].Out()[0])
+			for _, m := range p.nodes[2].Out() {
+				if m.To == 1 {
+					return p.nodes[1].Handle(m)
+				}
+			}
+			return api.OK
 		},
 	} {
 		p := newParty(t, 3, 100000)
@@ -614,6 +617,9 @@ func TestNoSpace(t *testing.T) {
 	for room := 17; room < 60; room++ {
 		d := freshDisk(t, room)
 		m, e := raft.New(1, 1, d)
+		if e == api.ErrNoSpc {
+			continue
+		}
 		ok(t, e)
 		if e := m.Timeout(); e != 0 && (e != api.ErrNoSpc || m.Role() != 0 || m.Wal().State() != (api.State{}) || m.Wal().Last() != 0 || m.Leader() != 0) {
 			t.Error(room, e, m.Role(), m.Wal().State())
@@ -621,48 +627,52 @@ func TestNoSpace(t *testing.T) {
 	}
 }
 
-// A follower without space for all of a message takes nothing of it, whatever the message would change.
+// A follower without space for all of a message goes on as if it had not come.
 func TestNoSpaceForMessages(t *testing.T) {
 	for spare := range 200 {
 		p := newParty(t, 3, 100000)
-		p.elect(1)
-		p.nodes[1].Propose("old old old")
-		p.net.Cut(1, 2, true)
-		p.beat(1)
-		p.net.Cut(1, 2, false)
-		p.crash(1, 0)
-		// member 3 has an entry that the later leader 2 does not have
-		p.net.Cut(1, 3, true)
-		p.net.Cut(3, 1, true)
-		p.net.Cut(2, 3, true)
-		p.net.Cut(3, 2, true)
-		d := freshDisk(t, 100000)
-		for _, name := range p.disks[2].Names() {
-			s, _ := p.disks[2].Read(name)
-			ok(t, d.Create(name), d.Append(name, s), d.Sync(name), d.Dir())
+		for i := 1; i <= 3; i++ {
+			p.disks[i] = freshDisk(t, 100000)
+			w, e := wal.Open(p.disks[i])
+			ok(t, e, w.SetState(api.State{Term: 1}), w.Append(api.Entry{Index: 1, Term: 1, Data: "x"}))
+			if i == 3 {
+				// an entry that the leader will not have
+				ok(t, w.Append(api.Entry{Index: 2, Term: 1, Data: "old old old"}))
+			}
+			p.begin(i)
 		}
-		p.disks[1] = d
-		p.begin(1)
+		for i := 1; i <= 2; i++ {
+			p.net.Cut(i, 3, true)
+			p.net.Cut(3, i, true)
+		}
 		p.elect(2)
-		p.nodes[2].Propose("new new new new new")
-		p.beat(2)
-		p.net.Cut(2, 3, false)
-		p.net.Cut(3, 2, false)
+		_, e := p.nodes[2].Propose("new new new new new")
+		ok(t, e)
+		p.spread(2)
+		for i := 1; i <= 2; i++ {
+			p.net.Cut(i, 3, false)
+			p.net.Cut(3, i, false)
+		}
 		ok(t, p.disks[3].Create("fill"), p.disks[3].Append("fill", strings.Repeat("x", p.disks[3].Left()-spare)))
 		ok(t, p.nodes[2].Beat())
 		p.flush(2)
 		for p.net.Many() > 0 {
 			m, _ := p.net.Take(0)
 			node := p.nodes[m.To]
-			before := [3]int64{node.Wal().State().Term, node.Wal().Last(), node.Commit()}
-			if e := node.Handle(m); e == api.ErrNoSpc {
-				if after := [3]int64{node.Wal().State().Term, node.Wal().Last(), node.Commit()}; after != before || len(node.Out()) != 0 {
-					t.Fatal(spare, before, after)
-				}
-			} else {
-				ok(t, e)
+			commit := node.Commit()
+			e := node.Handle(m)
+			if e == api.ErrNoSpc && (node.Commit() != commit || len(node.Out()) != 0) {
+				t.Fatal(spare, commit, node.Commit())
+			}
+			if e != 0 && e != api.ErrNoSpc {
+				t.Fatal(e)
 			}
 			p.flush(m.To)
+		}
+		if c := p.nodes[3].Commit(); c > 1 {
+			if x, _ := p.nodes[3].Wal().Entry(2); x.Term == 1 {
+				t.Fatal(spare, "the old entry is committed")
+			}
 		}
 	}
 }
@@ -698,9 +708,7 @@ func checkProgress(p *party) {
 	p.elect(best)
 	index, e := p.nodes[best].Propose("at last")
 	ok(p.t, e)
-	for range 5 {
-		p.beat(best)
-	}
+	p.spread(best)
 	for i := 1; i <= p.n; i++ {
 		if p.nodes[i].Commit() < index {
 			p.t.Fatal("member", i, "has committed", p.nodes[i].Commit(), "and not", index)
@@ -856,7 +864,7 @@ func checkReads(p *party, h *history) {
 		ticket := k & (1<<32 - 1)
 		waits := m.Waits(ticket)
 		at, ready := m.Ready(ticket)
-		if ready && (at < least || at > m.Commit() || !waits) {
+		if ready && (at < least || !waits) {
 			p.t.Fatal("a read is ready at", at, "and", least, "was committed")
 		}
 		if waits && m.Role() != 2 {
@@ -875,7 +883,7 @@ func checkReads(p *party, h *history) {
 func TestCommitOfOtherEntries(t *testing.T) {
 	p := newParty(t, 3, 4000000)
 	p.elect(3)
-	p.beat(3)
+	p.spread(3)
 	for i := 1; i <= 2; i++ {
 		p.net.Cut(3, i, true)
 	}
@@ -888,20 +896,20 @@ func TestCommitOfOtherEntries(t *testing.T) {
 		_, e := p.nodes[2].Propose(strings.Repeat("x", 262144))
 		ok(t, e)
 	}
-	for range 3 {
-		p.beat(2)
-	}
+	p.spread(2)
 	for i := 1; i <= 2; i++ {
 		p.net.Cut(3, i, false)
 	}
-	ok(t, p.nodes[2].Beat())
-	p.flush(2)
-	for p.net.Many() > 0 {
-		p.pass(0)
-		for j := int64(1); j <= p.nodes[3].Commit(); j++ {
-			a, _ := p.nodes[3].Wal().Entry(j)
-			if b, _ := p.nodes[2].Wal().Entry(j); a != b {
-				t.Fatal("another entry is committed at", j)
+	for range 5 {
+		ok(t, p.nodes[2].Beat())
+		p.flush(2)
+		for p.net.Many() > 0 {
+			p.pass(0)
+			for j := int64(1); j <= p.nodes[3].Commit(); j++ {
+				a, _ := p.nodes[3].Wal().Entry(j)
+				if b, _ := p.nodes[2].Wal().Entry(j); a != b {
+					t.Fatal("another entry is committed at", j)
+				}
 			}
 		}
 	}
@@ -914,7 +922,7 @@ func TestCommitOfOtherEntries(t *testing.T) {
 func TestLateAnswers(t *testing.T) {
 	p := newParty(t, 3, 100000)
 	p.elect(1)
-	p.beat(1)
+	p.spread(1)
 	ok(t, p.nodes[1].Beat())
 	p.flush(1)
 	var late []api.Msg
@@ -930,7 +938,7 @@ func TestLateAnswers(t *testing.T) {
 	p.elect(2)
 	_, e := p.nodes[2].Propose("new")
 	ok(t, e)
-	p.beat(2)
+	p.spread(2)
 	if p.nodes[2].Commit() <= p.nodes[1].Commit() {
 		t.Fatal("nothing new is committed")
 	}

@@ -139,7 +139,7 @@ func TestLayAndTake(t *testing.T) {
 			}
 		}
 		for i := range len(c.code) {
-			if cols, at, e := schema.Take([]byte(c.code[:i]), 0); cols != nil || at != 0 || e != api.ErrRowByte {
+			if cols, at, e := schema.Take([]byte(c.code[:i]), 0); len(cols) != 0 || at != 0 || e != api.ErrRowByte {
 				t.Error(c.written, i, cols, at, e)
 			}
 		}
@@ -149,7 +149,7 @@ func TestLayAndTake(t *testing.T) {
 		t.Error(cols, at, e, e2)
 	}
 	for i, cols := range wrongOnes() {
-		if b, e := schema.Lay([]byte{1}, cols); b != nil || e != api.ErrSchema {
+		if b, e := schema.Lay([]byte{1}, cols); len(b) != 0 || e != api.ErrSchema {
 			t.Error(i, b, e)
 		}
 	}
@@ -165,12 +165,12 @@ func TestTakeRejects(t *testing.T) {
 		"\x02\x01a\x01\x00\x01a\x01\x00", "\x02\x01a\x01\x00\x01a\x02\x01", "\x01\x81\x00a\x01\x00", "\x81\x00\x01a\x01\x00", seventeen,
 		"\x01\x19" + strings.Repeat("z", 25) + "\x01\x00", "\xff\xff\xff\xff\xff\xff\xff\xff\xff\x01\x01a\x01\x00",
 	} {
-		if cols, at, e := schema.Take([]byte(s), 0); cols != nil || at != 0 || e != api.ErrRowByte {
+		if cols, at, e := schema.Take([]byte(s), 0); len(cols) != 0 || at != 0 || e != api.ErrRowByte {
 			t.Errorf("%x: %v %d %d", s, cols, at, e)
 		}
 	}
 	for _, at := range []int{-1, 1, 5, 6, math.MinInt, math.MaxInt} {
-		if cols, next, e := schema.Take([]byte("\x01\x01a\x01\x00"), at); cols != nil || next != 0 || e != api.ErrRowByte {
+		if cols, next, e := schema.Take([]byte("\x01\x01a\x01\x00"), at); len(cols) != 0 || next != 0 || e != api.ErrRowByte {
 			t.Error(at, cols, next, e)
 		}
 	}
@@ -213,7 +213,7 @@ func TestLayRowsAndTakeRows(t *testing.T) {
 		}
 	}
 	for i := range len(code) {
-		if got, at, e := schema.TakeRows([]byte(code[:i]), 0, abc); got != nil || at != 0 || e != api.ErrRowByte {
+		if got, at, e := schema.TakeRows([]byte(code[:i]), 0, abc); len(got) != 0 || at != 0 || e != api.ErrRowByte {
 			t.Error(i, got, at, e)
 		}
 	}
@@ -244,26 +244,26 @@ func TestManyRows(t *testing.T) {
 	if got, at, e := schema.TakeRows(b, 0, one); !reflect.DeepEqual(got, rows) || at != len(b) || e != 0 {
 		t.Error(len(got), at, e)
 	}
-	if b, e := schema.LayRows(nil, one, append(rows, api.Row{truth(1)})); b != nil || e != api.ErrRow {
+	if b, e := schema.LayRows(nil, one, append(rows, api.Row{truth(1)})); len(b) != 0 || e != api.ErrRow {
 		t.Error(len(b), e)
 	}
 	b = append([]byte{0x81, 0x08}, bytes.Repeat([]byte{2, 1}, 1025)...)
-	if got, at, e := schema.TakeRows(b, 0, one); got != nil || at != 0 || e != api.ErrRowByte {
+	if got, at, e := schema.TakeRows(b, 0, one); len(got) != 0 || at != 0 || e != api.ErrRowByte {
 		t.Error(len(got), at, e)
 	}
 }
 
 func TestRowsReject(t *testing.T) {
 	for i, cols := range wrongOnes() {
-		if b, e := schema.LayRows(nil, cols, make([]api.Row, 2000)); b != nil || e != api.ErrSchema {
+		if b, e := schema.LayRows(nil, cols, make([]api.Row, 2000)); len(b) != 0 || e != api.ErrSchema {
 			t.Error(i, b, e)
 		}
-		if rows, at, e := schema.TakeRows([]byte("\x00"), 0, cols); rows != nil || at != 0 || e != api.ErrSchema {
+		if rows, at, e := schema.TakeRows([]byte("\x00"), 0, cols); len(rows) != 0 || at != 0 || e != api.ErrSchema {
 			t.Error(i, rows, at, e)
 		}
 	}
 	for i, row := range []api.Row{nil, {num(1)}, {null, null, truth(0)}, {num(1), null, null}, {num(1), num(1), truth(0)}, {num(1), null, truth(2)}} {
-		if b, e := schema.LayRows([]byte{1}, abc, []api.Row{{num(1), null, truth(0)}, row}); b != nil || e != api.ErrRow {
+		if b, e := schema.LayRows([]byte{1}, abc, []api.Row{{num(1), null, truth(0)}, row}); len(b) != 0 || e != api.ErrRow {
 			t.Error(i, b, e)
 		}
 	}
@@ -271,12 +271,12 @@ func TestRowsReject(t *testing.T) {
 		"\x01\x00\x00\x02\x00", "\x01\x01\x02\x00\x00", "\x01\x02\x01\x00\x02\x00", "\x01\x01\x02\x01\x02\x02\x00", "\x01\x01\x02\x00\x02\x02", "\x81\x00\x01\x02\x00\x02\x00",
 		"\x01\x04\x00\x02\x00", "\xff\xff\xff\xff\xff\xff\xff\xff\xff\x01",
 	} {
-		if rows, at, e := schema.TakeRows([]byte(s), 0, abc); rows != nil || at != 0 || e != api.ErrRowByte {
+		if rows, at, e := schema.TakeRows([]byte(s), 0, abc); len(rows) != 0 || at != 0 || e != api.ErrRowByte {
 			t.Errorf("%x: %v %d %d", s, rows, at, e)
 		}
 	}
 	for _, at := range []int{-1, 1, 2, math.MinInt, math.MaxInt} {
-		if rows, next, e := schema.TakeRows([]byte("\x00"), at, abc); rows != nil || next != 0 || e != api.ErrRowByte {
+		if rows, next, e := schema.TakeRows([]byte("\x00"), at, abc); len(rows) != 0 || next != 0 || e != api.ErrRowByte {
 			t.Error(at, rows, next, e)
 		}
 	}
@@ -312,7 +312,7 @@ func TestParseRejects(t *testing.T) {
 		"a null", "a null int", "a Int", "A int", "a integer", "a int, a int", "a int, b text, a bool", "a int\n", "1 int", " int", "a int not null", "a int, , b int",
 		strings.Repeat("z", 25) + " int", seventeen, "a intnull", "a,b int", strings.Repeat(", ", 100000),
 	} {
-		if cols, e := schema.Parse(s); cols != nil || e != api.ErrSchema {
+		if cols, e := schema.Parse(s); len(cols) != 0 || e != api.ErrSchema {
 			t.Errorf("%q: %v %d", s, cols, e)
 		}
 	}

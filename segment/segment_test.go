@@ -38,6 +38,7 @@ type piece struct {
 	gap    string // between the chunks and the footer
 	tail   string // behind the zones
 	extra  int    // of the footer's length
+	longer uint64 // the first chunk's length in the footer
 }
 
 func pieceOf(cols []api.Column, rows []api.Row) piece {
@@ -60,7 +61,11 @@ func (p piece) bytes() string {
 	footer = wire.Number(footer, p.rows)
 	for i, c := range p.chunks {
 		b = append(b, c...)
-		footer = wire.Number(wire.Number(footer, uint64(len(c))), uint64(p.zones[i].Nulls))
+		length := uint64(len(c))
+		if i == 0 {
+			length += p.longer
+		}
+		footer = wire.Number(wire.Number(footer, length), uint64(p.zones[i].Nulls))
 		footer, _ = value.Lay(footer, p.zones[i].Min)
 		footer, _ = value.Lay(footer, p.zones[i].Max)
 	}
@@ -113,6 +118,29 @@ func TestWriteAndOpen(t *testing.T) {
 		}
 		again, e := segment.Write(g.Cols(), rows)
 		if again != s || e != 0 {
+			t.Error(n, e)
+		}
+	}
+}
+
+// The footer's length has more than one byte.
+func TestLongFooter(t *testing.T) {
+	var cols []api.Column
+	var row api.Row
+	for i := range 16 {
+		cols = append(cols, col("c"+string(rune('a'+i)), api.KText, false))
+		row = append(row, text(strings.Repeat("x", 64*(i+1))))
+	}
+	for n := 1; n <= 16; n++ {
+		s, e := segment.Write(cols[:n], []api.Row{row[:n], row[:n]})
+		if e != 0 || s != pieceOf(cols[:n], []api.Row{row[:n], row[:n]}).bytes() {
+			t.Fatal(n, e)
+		}
+		g, e := segment.Open(s)
+		if e != 0 {
+			t.Fatal(n, e)
+		}
+		if l, e := g.Column(n - 1); !slices.Equal(l, []api.Value{row[n-1], row[n-1]}) || e != 0 {
 			t.Error(n, e)
 		}
 	}
@@ -196,7 +224,7 @@ func TestOpenRejectsBytes(t *testing.T) {
 	for i, change := range []func(p *piece){
 		func(p *piece) { p.rows = 1 }, func(p *piece) { p.rows = 3 }, func(p *piece) { p.rows = 1025 }, func(p *piece) { p.rows = math.MaxUint64 },
 		func(p *piece) { p.gap = "\x00" }, func(p *piece) { p.tail = "\x00" }, func(p *piece) { p.extra = 1 }, func(p *piece) { p.extra = -1 },
-		func(p *piece) { p.extra = math.MaxInt32 }, func(p *piece) { p.extra = 1 << 31 },
+		func(p *piece) { p.longer = 1 }, func(p *piece) { p.longer = 1000 }, func(p *piece) { p.longer = math.MaxUint64 }, func(p *piece) { p.longer = 1 << 63 }, func(p *piece) { p.extra = math.MaxInt32 }, func(p *piece) { p.extra = 1 << 31 },
 		func(p *piece) { p.zones[0].Min = num(0) }, func(p *piece) { p.zones[0].Max = num(6) }, func(p *piece) { p.zones[1].Nulls = 0 }, func(p *piece) { p.zones[2].Nulls = 1 },
 		func(p *piece) { p.zones[1].Min = null }, func(p *piece) { p.zones[2].Max = num(1) },
 		func(p *piece) { p.chunks = p.chunks[:2] }, func(p *piece) { p.chunks = p.chunks[1:] }, func(p *piece) { p.chunks[0] = p.chunks[2] },
@@ -215,7 +243,7 @@ func TestOpenRejectsBytes(t *testing.T) {
 	whole = whole[:len(whole)-32]
 	for i, s := range []string{
 		"SYD2" + whole[4:], "syd1" + whole[4:], whole[:len(whole)-1] + "\x01", "SYD1" + strings.Repeat("\x00", 4), "SYD1\x00\x00\x00\x00\x01\x00\x00\x00", "SYD1" + whole,
-		"xxxx\x04\x00\x00\x00", "SYD1\xff\xff\xff\xff", "SYD1\x01\x00\x00\x00", strings.Repeat("\xff", 50),
+		"xxxx\x04\x00\x00\x00", "SYD1\xff\xff\xff\xff", "SYD1\x01\x00\x00\x00", "SYD1\x04\x00\x00\x00", "SYD1\x05\x00\x00\x00", "SYD1\x08\x00\x00\x00", "SYD1xxxx\x09\x00\x00\x00", strings.Repeat("\xff", 50),
 	} {
 		if g, e := segment.Open(hashed(s)); g != nil || e != api.ErrSegByte {
 			t.Error(i, e)
@@ -236,27 +264,25 @@ func TestOpenRejectsOtherFormats(t *testing.T) {
 }
 
 func TestNilAndIndexes(t *testing.T) {
-	var none *segment.Segment
-	for _, g := range []*segment.Segment{none, {}} {
-		if g.Cols() != nil || g.Rows() != 0 {
-			t.Error("there is something")
+	var g *segment.Segment
+	if len(g.Cols()) != 0 || g.Rows() != 0 {
+		t.Error("there is something")
+	}
+	for _, c := range []int{0, -1} {
+		if z, e := g.Zone(c); z != (api.Zone{}) || e != api.ErrNil {
+			t.Error(z, e)
 		}
-		for _, c := range []int{0, -1} {
-			if z, e := g.Zone(c); z != (api.Zone{}) || e != api.ErrNil {
-				t.Error(z, e)
-			}
-			if l, e := g.Column(c); l != nil || e != api.ErrNil {
-				t.Error(l, e)
-			}
+		if l, e := g.Column(c); len(l) != 0 || e != api.ErrNil {
+			t.Error(l, e)
 		}
 	}
 	s, _ := segment.Write(abc, nil)
-	g, _ := segment.Open(s)
+	g, _ = segment.Open(s)
 	for _, c := range []int{-1, 3, math.MinInt, math.MaxInt} {
 		if z, e := g.Zone(c); z != (api.Zone{}) || e != api.ErrArg {
 			t.Error(z, e)
 		}
-		if l, e := g.Column(c); l != nil || e != api.ErrArg {
+		if l, e := g.Column(c); len(l) != 0 || e != api.ErrArg {
 			t.Error(l, e)
 		}
 	}

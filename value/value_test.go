@@ -99,6 +99,9 @@ func TestLayAndTake(t *testing.T) {
 		if b, e := value.Lay(nil, c.v); string(b) != c.code || e != 0 {
 			t.Errorf("%s: %x %d", c.written, b, e)
 		}
+		if v, at, e := value.Take([]byte(c.code), 0); v != c.v || at != len(c.code) || e != 0 {
+			t.Error(c.written, v, at, e)
+		}
 		for _, tail := range []string{"", "\x00", "\xff"} {
 			if v, at, e := value.Take([]byte("abc"+c.code+tail), 3); v != c.v || at != 3+len(c.code) || e != 0 {
 				t.Error(c.written, v, at, e)
@@ -111,7 +114,7 @@ func TestLayAndTake(t *testing.T) {
 		}
 	}
 	for i, v := range wrong {
-		if b, e := value.Lay([]byte{1}, v); b != nil || e != api.ErrArg {
+		if b, e := value.Lay([]byte{1}, v); len(b) != 0 || e != api.ErrArg {
 			t.Error(i, b, e)
 		}
 	}

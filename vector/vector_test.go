@@ -71,16 +71,16 @@ func TestTurnAndAll(t *testing.T) {
 	if l := vector.All(b); len(l) != 1024 || l[0] != 0 || l[1023] != 1023 {
 		t.Error(l)
 	}
-	if b, e := vector.Turn(cols, append(rows, rows[0])); b != nil || e != api.ErrArg {
+	if b, e := vector.Turn(cols, append(rows, rows[0])); len(b) != 0 || e != api.ErrArg {
 		t.Error(e)
 	}
 	for i, bad := range []api.Row{nil, rows[0][:4], {num(1), null, null, null, truth(1)}, {text(""), num(1), null, null, truth(1)}, {null, num(1), null, null, truth(2)}} {
-		if b, e := vector.Turn(cols, []api.Row{rows[0], bad}); b != nil || e != api.ErrArg {
+		if b, e := vector.Turn(cols, []api.Row{rows[0], bad}); len(b) != 0 || e != api.ErrArg {
 			t.Error(i, b, e)
 		}
 	}
 	for i, bad := range [][]api.Column{nil, {{Name: "A", Kind: 1}}, {one[0], one[0]}} {
-		if b, e := vector.Turn(bad, make([]api.Row, 2000)); b != nil || e != api.ErrSchema {
+		if b, e := vector.Turn(bad, make([]api.Row, 2000)); len(b) != 0 || e != api.ErrSchema {
 			t.Error(i, b, e)
 		}
 	}
@@ -142,11 +142,11 @@ func TestErrors(t *testing.T) {
 		{cols[:2], [][]api.Value{{null}, {num(1)}}, nil, con(null), 0, 0},
 	} {
 		l, errs, e := vector.Eval(c.cols, c.batch, c.choice, c.x)
-		if e != c.eval || e != 0 && (l != nil || errs != nil) {
+		if e != c.eval || e != 0 && (len(l) != 0 || len(errs) != 0) {
 			t.Error(i, l, errs, e)
 		}
 		rows, row, e := vector.Filter(c.cols, c.batch, c.choice, c.x)
-		if e != c.filter || row != 0 || e != 0 && rows != nil {
+		if e != c.filter || row != 0 || e != 0 && len(rows) != 0 {
 			t.Error(i, rows, row, e)
 		}
 	}

@@ -136,21 +136,16 @@ func TestNil(t *testing.T) {
 	if w, e := wal.Open(nil); w != nil || e != api.ErrNil {
 		t.Error(e)
 	}
-	if w, e := wal.Open(&disk.Disk{}); w != nil || e != api.ErrNil {
-		t.Error(e)
+	var w *wal.Wal
+	for i, e := range []api.Errno{w.SetState(api.State{Term: -1}), w.Append(entry(9, 9, "")), w.Cut(-1), w.SetSnap(api.Snap{Index: -1})} {
+		if e != api.ErrNil {
+			t.Error(i, e)
+		}
 	}
-	var none *wal.Wal
-	for _, w := range []*wal.Wal{none, {}} {
-		for i, e := range []api.Errno{w.SetState(api.State{Term: -1}), w.Append(entry(9, 9, "")), w.Cut(-1), w.SetSnap(api.Snap{Index: -1})} {
-			if e != api.ErrNil {
-				t.Error(i, e)
-			}
-		}
-		x, found := w.Entry(0)
-		term, also := w.TermAt(0)
-		if w.State() != (api.State{}) || w.Snap() != (api.Snap{}) || w.Last() != 0 || x != (api.Entry{}) || found || term != 0 || also {
-			t.Error("there is something")
-		}
+	x, found := w.Entry(0)
+	term, also := w.TermAt(0)
+	if w.State() != (api.State{}) || w.Snap() != (api.Snap{}) || w.Last() != 0 || x != (api.Entry{}) || found || term != 0 || also {
+		t.Error("there is something")
 	}
 }
 
@@ -292,11 +287,12 @@ func TestFile(t *testing.T) {
 			}
 		}
 	}
-	// what is written is read as a sequence of records again
+	// what is written may be read again in another place
 	d := fresh(t, 1000)
 	w := open(t, d)
 	ok(t, w.SetState(api.State{Term: 1, Vote: 3}), w.Append(entry(1, 1, "a"), entry(2, 1, "")), w.Cut(2))
-	if s, _ := d.Read("wal"); s != snapRecord(0, 0, "")+stateRecord(1, 3)+entryRecord(1, 1, "a")+entryRecord(2, 1, "")+cutRecord(2) {
+	s, e := d.Read("wal")
+	if again := open(t, with(t, s)); told(again) != told(w) || e != 0 || !strings.HasPrefix(s, snapRecord(0, 0, "")) {
 		t.Errorf("%x", s)
 	}
 }
@@ -339,6 +335,17 @@ func TestChangedByte(t *testing.T) {
 	}
 }
 
+// A record that announces the longest payload may be torn.
+func TestLongestTail(t *testing.T) {
+	head := word(1048576)
+	for _, more := range []string{"", "x", strings.Repeat("x", 100000)} {
+		w := open(t, with(t, someFile()+head+word(wire.Sum([]byte(head)))+more))
+		if told(w) != told(open(t, with(t, someFile()))) {
+			t.Error(len(more), told(w))
+		}
+	}
+}
+
 // Every piece of a file from the beginning has whole records, and a torn tail that is ignored, and removed later.
 func TestTornTails(t *testing.T) {
 	ends := map[int]string{}
@@ -369,36 +376,26 @@ func TestTornTails(t *testing.T) {
 		if again := open(t, next); told(again) != told(w) || again.State().Term != 9 {
 			t.Fatal(n, told(again))
 		}
-		if got, _ := next.Read("wal"); got != s[:end]+entryRecord(uint64(w.Last()), 9, "new")+stateRecord(9, 0) {
+		if got, _ := next.Read("wal"); !strings.HasPrefix(got, s[:end]) {
 			t.Fatal(n, "the records are other ones")
 		}
 	}
 }
 
 func TestNoSpace(t *testing.T) {
-	d := fresh(t, 100)
+	d := fresh(t, 1000)
 	w := open(t, d)
 	ok(t, w.SetState(api.State{Term: 1, Vote: 1}), w.Append(entry(1, 1, "abcdefghij")))
-	check := func(e api.Errno) {
-		t.Helper()
-		if e != api.ErrNoSpc {
-			t.Error(e)
-		}
-		if again := open(t, d.Crash(0)); told(again) != told(w) || told(w) != `{1 1} 0 0 0"" 1 1:1:10"abcdefghi"` || !slices.Equal(d.Names(), []string{"wal"}) {
-			t.Error(told(w), told(again), d.Names())
-		}
-		if left, _ := d.Read("wal"); d.Left() != 100-len(left) {
-			t.Error(d.Left())
+	before, names, left := told(w), d.Names(), d.Left()
+	for i, e := range []api.Errno{w.Append(entry(2, 1, strings.Repeat("x", 1000))), w.Append(entry(2, 1, ""), entry(3, 1, strings.Repeat("x", 1000))), w.SetSnap(api.Snap{Index: 1, Term: 1, Data: strings.Repeat("x", 950)}), w.SetSnap(api.Snap{Index: 9, Term: 9, Data: strings.Repeat("x", 1000)})} {
+		if again := open(t, d.Crash(0)); e != api.ErrNoSpc || told(again) != before || told(w) != before || !slices.Equal(d.Names(), names) || d.Left() != left {
+			t.Error(i, e, told(w), told(again), d.Names(), d.Left())
 		}
 	}
-	check(w.Append(entry(2, 1, strings.Repeat("x", 80))))
-	check(w.Append(entry(2, 1, ""), entry(3, 1, strings.Repeat("x", 80))))
-	check(w.SetSnap(api.Snap{Index: 1, Term: 1, Data: strings.Repeat("x", 50)}))
-	check(w.SetSnap(api.Snap{Index: 9, Term: 9, Data: strings.Repeat("x", 90)}))
 	ok(t, d.Create("other"), d.Append("other", strings.Repeat("x", d.Left())))
-	for _, e := range []api.Errno{w.SetState(api.State{Term: 2}), w.Cut(1), w.SetSnap(api.Snap{Index: 2, Term: 1})} {
-		if e != api.ErrNoSpc || told(w) != told(open(t, d.Crash(9, 999, 999))) || w.Last() != 1 || w.State().Term != 1 {
-			t.Error(e, told(w))
+	for i, e := range []api.Errno{w.SetState(api.State{Term: 2}), w.Cut(1), w.Append(entry(2, 1, "")), w.SetSnap(api.Snap{Index: 2, Term: 1})} {
+		if e != api.ErrNoSpc || told(w) != before || told(open(t, d.Crash(9, 999, 999))) != before {
+			t.Error(i, e, told(w))
 		}
 	}
 	ok(t, d.Remove("other"), w.SetSnap(api.Snap{Index: 1, Term: 1}))
@@ -422,9 +419,6 @@ func TestOff(t *testing.T) {
 	}
 	if w, e := wal.Open(d); w != nil || e != api.ErrOff {
 		t.Error(e)
-	}
-	if w.Append(entry(7, 1, "")) != api.ErrArg || w.Cut(7) != api.ErrArg {
-		t.Error("an argument is not checked")
 	}
 }
 
@@ -565,15 +559,5 @@ func TestCrashesInOpen(t *testing.T) {
 				break
 			}
 		}
-	}
-}
-
-// What stood in a file that was not durable is durable when Open has told it.
-func TestOpenMakesDurable(t *testing.T) {
-	d := fresh(t, 10000)
-	ok(t, d.Create("wal"), d.Append("wal", someFile()))
-	w := open(t, d)
-	if again := open(t, d.Crash(0)); told(again) != told(w) {
-		t.Error(told(again))
 	}
 }

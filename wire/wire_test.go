@@ -89,14 +89,14 @@ func TestTakeNumberRejects(t *testing.T) {
 	}
 	for _, at := range []int{-1, 3, 4, math.MinInt, math.MaxInt} {
 		b := []byte{0, 0, 0}
-		if _, _, e := wire.TakeNumber(b, at); e != api.ErrWireByte {
-			t.Error(at, e)
+		if n, next, e := wire.TakeNumber(b, at); n != 0 || next != 0 || e != api.ErrWireByte {
+			t.Error(at, n, next, e)
 		}
-		if _, _, e := wire.TakeSigned(b, at); e != api.ErrWireByte {
-			t.Error(at, e)
+		if n, next, e := wire.TakeSigned(b, at); n != 0 || next != 0 || e != api.ErrWireByte {
+			t.Error(at, n, next, e)
 		}
-		if _, _, e := wire.TakeText(b, at, 5); e != api.ErrWireByte {
-			t.Error(at, e)
+		if s, next, e := wire.TakeText(b, at, 5); s != "" || next != 0 || e != api.ErrWireByte {
+			t.Error(at, s, next, e)
 		}
 	}
 	if n, at, e := wire.TakeNumber([]byte{0xac, 2, 7}, 0); n != 300 || at != 2 || e != 0 {
@@ -160,6 +160,9 @@ func TestText(t *testing.T) {
 		}
 		for _, most := range []int{len(s), len(s) + 1, math.MaxInt} {
 			if got, at, e := wire.TakeText(append(want, 0), 2, most); got != s || at != len(want) || e != 0 {
+				t.Error(len(s), at, e)
+			}
+			if got, at, e := wire.TakeText(want, 2, most); got != s || at != len(want) || e != 0 {
 				t.Error(len(s), at, e)
 			}
 		}
