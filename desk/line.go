@@ -11,11 +11,11 @@ import (
 
 // The kinds of arguments.
 const (
-	number   = 'n'
-	anyText  = 't'
-	anyMany  = 'v' // any number of values
-	maxDigit = 18
+	number  = 'n'
+	anyMany = 'v' // any number of values
 )
+
+const maxDigits = 18
 
 // line is a line that is no comment: its number and its words.
 type line struct {
@@ -160,7 +160,7 @@ func isNoValue(w word) bool {
 }
 
 func isNumber(w word) bool {
-	if !w.plain || len(w.text) > maxDigit || w.text[0] == '0' && len(w.text) > 1 {
+	if !w.plain || len(w.text) > maxDigits || w.text[0] == '0' && len(w.text) > 1 {
 		return false
 	}
 	for _, r := range w.text {
