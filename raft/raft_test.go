@@ -965,3 +965,120 @@ func TestStateBehindLog(t *testing.T) {
 		t.Error(i, e, m.Commit())
 	}
 }
+
+// only leaves a member the links with some others.
+func (p *party) only(i int, others ...int) {
+	p.t.Helper()
+	for j := 1; j <= p.n; j++ {
+		if j != i {
+			isCut := !slices.Contains(others, j)
+			ok(p.t, p.net.Cut(i, j, isCut), p.net.Cut(j, i, isCut))
+		}
+	}
+}
+
+// The votes of one term do not count in the next one.
+func TestVotesOfEarlierTerms(t *testing.T) {
+	p := newParty(t, 5, 100000)
+	for i := 2; i <= 5; i++ {
+		p.only(1, i)
+		ok(t, p.nodes[1].Timeout())
+		p.passAll()
+		if p.nodes[1].Role() == 2 {
+			t.Fatal("a member leads with two votes of five")
+		}
+	}
+	// a vote that comes twice counts once
+	p.only(1, 2)
+	ok(t, p.nodes[1].Timeout())
+	p.flush(1)
+	for range 3 {
+		p.net.Copy(0)
+	}
+	for k := 0; p.net.Many() > 0; k++ {
+		if k < 20 {
+			p.net.Copy(p.net.Many() - 1)
+		}
+		p.pass(0)
+	}
+	if p.nodes[1].Role() == 2 {
+		t.Fatal("a member leads with two votes of five")
+	}
+}
+
+// What a member answered to a leader of an earlier term does not tell what it has in a later one.
+func TestAnswersOfEarlierTerms(t *testing.T) {
+	p := newParty(t, 5, 100000)
+	p.elect(1)
+	p.spread(1)
+	p.only(1, 2)
+	for range 10 {
+		_, e := p.nodes[1].Propose("old")
+		ok(t, e)
+	}
+	// the second member has all of it, and its answers come late
+	var late []api.Msg
+	for range 5 {
+		ok(t, p.nodes[1].Beat())
+		for _, m := range p.nodes[1].Out() {
+			if m.To == 2 {
+				ok(t, p.nodes[2].Handle(m))
+				late = append(late, p.nodes[2].Out()...)
+			}
+		}
+	}
+	end := p.nodes[2].Wal().Last()
+	p.only(1)
+	p.only(2)
+	p.elect(3)
+	for i := 1; i <= 2; i++ {
+		p.only(i, 1, 2, 3, 4, 5)
+	}
+	p.spread(3)
+	// the first member leads again, and only the third one has its new entries
+	p.elect(1)
+	p.only(1, 3)
+	for p.nodes[1].Wal().Last() < end {
+		_, e := p.nodes[1].Propose("new")
+		ok(t, e)
+	}
+	last := p.nodes[1].Wal().Last()
+	p.spread(1)
+	for _, m := range late {
+		p.nodes[1].Handle(m)
+		if p.nodes[1].Commit() == last {
+			t.Fatal("what two of five members have is committed")
+		}
+	}
+}
+
+// A leader of an earlier term changes no log any more.
+func TestStaleLeader(t *testing.T) {
+	p := newParty(t, 3, 100000)
+	p.elect(1)
+	p.spread(1)
+	p.only(1)
+	for range 3 {
+		_, e := p.nodes[1].Propose("stale")
+		ok(t, e)
+	}
+	p.elect(2)
+	_, e := p.nodes[2].Propose("new")
+	ok(t, e)
+	p.spread(2)
+	last := p.nodes[2].Wal().Last()
+	kept, _ := p.nodes[3].Wal().Entry(last)
+	p.crash(3, 0)
+	// a member that is created again does not know what is committed
+	for range 2 {
+		ok(t, p.nodes[1].Beat())
+		for _, m := range p.nodes[1].Out() {
+			if m.To == 3 {
+				p.nodes[3].Handle(m)
+			}
+		}
+	}
+	if x, found := p.nodes[3].Wal().Entry(last); x != kept || !found || x.Data != "new" {
+		t.Fatal("a committed entry is gone")
+	}
+}
