@@ -584,6 +584,9 @@ func TestDead(t *testing.T) {
 		ok(t, c.Disk(1).Fuse(fuse))
 		k, e := c.Ingest(1, 1, 2, one, rows(6, 7))
 		if e == 0 {
+			if c.Node(1).Dead() {
+				t.Fatal("a member died in a call without an error")
+			}
 			break
 		}
 		if k != 0 || e != api.ErrOff || !c.Node(1).Dead() {

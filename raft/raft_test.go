@@ -450,41 +450,36 @@ func TestLaterTerms(t *testing.T) {
 	p.elect(1)
 }
 
-// An entry of an earlier term is not committed by the number of members that have it.
+// An entry of an earlier term is not committed by the number of members that have it, since one with a later term may still take its place.
 func TestEarlierTerms(t *testing.T) {
-	p := newParty(t, 3, 100000)
+	p := newParty(t, 3, 4000000)
 	fill := func(i int, terms ...int64) {
-		d := freshDisk(t, 100000)
-		w, e := wal.Open(d)
+		p.disks[i] = freshDisk(t, 4000000)
+		w, e := wal.Open(p.disks[i])
 		ok(t, e, w.SetState(api.State{Term: 3}))
 		for j, term := range terms {
-			ok(t, w.Append(api.Entry{Index: int64(j + 1), Term: term, Data: "x"}))
+			ok(t, w.Append(api.Entry{Index: int64(j + 1), Term: term, Data: strings.Repeat("x", 262144)}))
 		}
-		p.disks[i] = d
 		p.begin(i)
 	}
-	fill(1, 1, 2)
-	fill(2, 1, 2)
+	fill(1, 1, 2, 2)
+	fill(2)
 	fill(3, 1, 3)
-	// whatever is delivered until member 1 leads and all others have its old entries, these are not committed before one of its own term
-	for i := 1; i <= 2; i++ {
-		p.net.Cut(3, i, true)
-		p.net.Cut(i, 3, true)
-	}
+	p.only(3)
 	for range 3 {
-		ok(t, p.nodes[1].Timeout())
+		ok(t, p.nodes[1].Timeout(), p.nodes[1].Beat())
 		p.flush(1)
 		for p.net.Many() > 0 {
 			p.pass(0)
 			for i := 1; i <= 3; i++ {
-				if c := p.nodes[i].Commit(); c == 1 || c == 2 {
+				if c := p.nodes[i].Commit(); c == 2 || c == 3 {
 					t.Fatal("an entry of an earlier term is committed")
 				}
 			}
 		}
 	}
 	p.spread(1)
-	if p.nodes[1].Commit() < 3 {
+	if p.nodes[1].Commit() < 4 {
 		t.Error(p.nodes[1].Commit())
 	}
 }
