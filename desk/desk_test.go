@@ -85,6 +85,12 @@ func TestCommands(t *testing.T) {
 	)
 }
 
+// Numbers have up to eighteen digits, and all of them count.
+func TestNumbers(t *testing.T) {
+	runs(t, "cluster 3 16777216", "ok", "cluster 3 16777217", "error 2", "cluster 1 100000", "ok", "lead 1", "ok", `create "a int"`, "ok 0", "ingest 999999999999999999 123456789012345678 1 5", "ok 1", "ingest 999999999999999999 123456789012345677 1 5", "error 2",
+		"ingest 999999999999999999 123456789012345678 1 6", "ok 1", "ingest 999999999999999999 123456789012345679 1 6", "ok 2", "ingest 999999999999999998 1 1 7", "ok 3", "ingest 0 10 1 8", "ok 4", "ingest 0 9 1 8", "error 2", "ingest 0 11 10 1 2 3 4 5 6 7 8 9 10 11", "error 2", "ingest 0 11 10 1 2 3 4 5 6 7 8 9 10", "error 51")
+}
+
 // Words are printed as they are, or quoted.
 func TestWords(t *testing.T) {
 	runs(t,
