@@ -62,10 +62,13 @@ func (w *world) look() {
 	}
 	w.execute()
 	for i := 1; i <= w.n; i++ {
+		if w.c.Node(i).Dead() {
+			continue
+		}
 		if at := w.c.Applied(i); w.c.Catalog(i) != w.states[at].catalog {
 			w.t.Fatal("member", i, "has another catalog at", at)
 		}
-		if m := w.c.Node(i); !m.Dead() && w.c.Applied(i) != m.Commit() {
+		if w.c.Applied(i) != w.c.Node(i).Commit() {
 			w.t.Fatal("member", i, "has not applied what is committed")
 		}
 	}
@@ -224,6 +227,8 @@ func (w *world) ingest(i int) {
 }
 
 func (w *world) crash(i int) {
+	// What was committed just before is not to be seen any more afterwards.
+	w.look()
 	ok(w.t, w.c.Crash(i, w.r.Intn(6)-1, w.r.Intn(200)-10, w.r.Intn(200)-10, w.r.Intn(200)-10))
 }
 

@@ -845,6 +845,7 @@ func act(p *party, h *history, r *rand.Rand, i int, said *int) {
 }
 
 func crashed(p *party, h *history, r *rand.Rand, i int) {
+	h.look(p)
 	for k := range h.reads {
 		if k>>32 == int64(i) {
 			delete(h.reads, k)
